@@ -2,6 +2,7 @@ package turn
 
 import (
 	"trishaw/api"
+	"trishaw/ratio"
 )
 
 // checkShares returns the error of shares, or OK.
@@ -63,24 +64,10 @@ func checkBound(shares []int, bound api.Ratio) api.Errno {
 	if bound.Den < 1 || bound.Den > api.MaxPart || bound.Num < 0 || bound.Num > bound.Den {
 		return api.ErrArg
 	}
-	if divisor(bound.Num, bound.Den) != 1 {
+	if ratio.Divisor(bound.Num, bound.Den) != 1 {
 		return api.ErrArg
 	}
 	return api.OK
-}
-
-// divisor returns the greatest common divisor of a and b, both from 0 on.
-func divisor(a, b int) int {
-	for b != 0 {
-		a, b = b, a%b
-	}
-	return a
-}
-
-// lowest returns num / den in lowest terms, for num from 0 on and den above 0.
-func lowest(num, den int) api.Ratio {
-	d := divisor(num, den)
-	return api.Ratio{Num: num / d, Den: den / d}
 }
 
 // sum returns the sum of a list.

@@ -3,6 +3,7 @@ package turn
 
 import (
 	"trishaw/api"
+	"trishaw/ratio"
 )
 
 // Deviation returns how far the counts of a list of days are ever from what is due.
@@ -10,7 +11,7 @@ func Deviation(shares, days []int) (api.Ratio, api.Errno) {
 	if e := checkDays(shares, days); e != api.OK {
 		return api.Ratio{}, e
 	}
-	return lowest(furthest(shares, days), sum(shares)), api.OK
+	return ratio.Lowest(furthest(shares, days), sum(shares)), api.OK
 }
 
 // Quota reports whether every count is always what is due, rounded down or up.
@@ -69,7 +70,7 @@ func Least(shares []int) (api.Ratio, api.Errno) {
 	if e := checkShares(shares); e != api.OK {
 		return api.Ratio{}, e
 	}
-	return lowest(least(shares), sum(shares)), api.OK
+	return ratio.Lowest(least(shares), sum(shares)), api.OK
 }
 
 // Round returns the lexicographically first of the rounds with the least deviation.
