@@ -68,13 +68,12 @@ func checkLanes(lanes []api.Lane) api.Errno {
 
 // areParts reports whether parts are those of a stream on many lanes.
 func areParts(parts api.Parts, many int) bool {
-	if len(parts.Nums) != many || parts.Den < 1 || parts.Den > api.MaxPart || !within(parts.Nums, 0, parts.Den) {
+	if !ratio.AreParts(parts, many, 0, 1) {
 		return false
 	}
 	sum := 0
 	for _, x := range parts.Nums {
 		sum += x
 	}
-	// What divides all Nums divides their sum, and this is Den.
-	return sum == parts.Den && ratio.Divisor(parts.Nums...) == 1
+	return sum == parts.Den
 }

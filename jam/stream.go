@@ -37,17 +37,7 @@ func balance(lanes []api.Lane) (api.Parts, api.Ratio) {
 		// For a used lane num - A den is the sum of whole and of (A' - A) whole / B' over the others; B divides each of these.
 		nums[i] = max(0, num-l.A*den) / l.B
 	}
-	return lowestParts(nums, den), ratio.Lowest(num, den)
-}
-
-// lowestParts returns the parts nums[i] / den without a common divisor. It changes nums.
-func lowestParts(nums []int, den int) api.Parts {
-	// What divides all nums divides their sum, and this is den.
-	d := ratio.Divisor(nums...)
-	for i := range nums {
-		nums[i] /= d
-	}
-	return api.Parts{Nums: nums, Den: den / d}
+	return ratio.Parts(nums, den), ratio.Lowest(num, den)
 }
 
 // delay returns the delay of parts.
