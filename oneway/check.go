@@ -2,6 +2,7 @@ package oneway
 
 import (
 	"trishaw/api"
+	"trishaw/street"
 )
 
 // checkQuarter returns the error of a quarter, or OK.
@@ -12,10 +13,8 @@ func checkQuarter(n int, streets []api.Pair) api.Errno {
 	if len(streets) > api.MaxStreets {
 		return api.ErrLimit
 	}
-	for _, s := range streets {
-		if !isCorner(n, s.A) || !isCorner(n, s.B) || s.A == s.B {
-			return api.ErrArg
-		}
+	if !street.Join(n, streets) {
+		return api.ErrArg
 	}
 	return api.OK
 }
@@ -32,8 +31,6 @@ func checkSigns(n int, streets []api.Pair, all ...string) api.Errno {
 	}
 	return api.OK
 }
-
-func isCorner(n, corner int) bool { return corner >= 0 && corner < n }
 
 // areSigns reports whether a string is the signs of many streets.
 func areSigns(signs string, many int) bool {

@@ -6,6 +6,7 @@ import (
 	"sync"
 
 	"trishaw/api"
+	"trishaw/street"
 )
 
 // allSigns yields all signs of many streets, the lesser ones first.
@@ -29,15 +30,12 @@ func someSigns(many, first, end int) iter.Seq[string] {
 	}
 }
 
-// turned returns a street that leads the other way.
-func turned(s api.Pair) api.Pair { return api.Pair{A: s.B, B: s.A} }
-
 // along returns the streets, each of them turned where it leads from B to A by the signs.
 func along(streets []api.Pair, signs string) []api.Pair {
 	ways := slices.Clone(streets)
 	for i := range len(signs) {
 		if signs[i] == '<' {
-			ways[i] = turned(ways[i])
+			ways[i] = street.Turned(ways[i])
 		}
 	}
 	return ways

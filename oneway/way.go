@@ -4,6 +4,7 @@ import (
 	"slices"
 
 	"trishaw/api"
+	"trishaw/street"
 )
 
 // has reports whether a set has a corner or a street.
@@ -13,7 +14,7 @@ func has(set, x int) bool { return set>>x&1 == 1 }
 func bothWays(streets []api.Pair) []api.Pair {
 	ways := slices.Concat(streets, streets)
 	for i, s := range streets {
-		ways[len(streets)+i] = turned(s)
+		ways[len(streets)+i] = street.Turned(s)
 	}
 	return ways
 }
